@@ -23,14 +23,23 @@ type doing struct {
 
 // Exec: a goroutine that can go on does its next instruction, by draws of numbers below some.
 func (w *World) Exec(g int, draw func(kind, n int) int) Effect {
-	if w.end != Runs || w.Status(g) != Ready {
+	if !w.lets(g) {
 		return Effect{}
 	}
 	d := &doing{w: w, g: g}
 	d.x, d.there = w.next(g)
 	d.ask(draw)
+	// Once more: a draw may have called this world itself.
+	if !w.lets(g) {
+		return Effect{}
+	}
 	d.do()
 	return Effect{Keep: d.keeps(), Ready: d.ready}
+}
+
+// lets: can a goroutine do an instruction?
+func (w *World) lets(g int) bool {
+	return w.end == Runs && w.Status(g) == Ready
 }
 
 // next: the instruction at which a goroutine is; false: there is none.

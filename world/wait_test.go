@@ -412,6 +412,34 @@ func TestDrawIsAhead(t *testing.T) {
 	}
 }
 
+// P1, P16.2: a draw that calls the same world: behind the end, or while it waits, the goroutine does nothing any more.
+func TestDrawCallsItsWorld(t *testing.T) {
+	for _, x := range []struct {
+		draws, behind string
+		calls         []int // who does something meanwhile
+	}{
+		{"rand 1 9", "nop", []int{1}},
+		{"select 0 2 1", "nop", []int{1}},
+		{"rand 1 9", "recv 0 1 2", []int{0, 0}},
+		{"select 1 1 1", "recv 1 1 2", []int{0, 0}},
+		{"select 0 2 1", "lock 0\nlock 0", []int{0, 0, 0}},
+		{"rand 1 9", "return 0", []int{0, 0}},
+		{"select 1 1 1", "", []int{0, 0}},
+	} {
+		w := start(t, "chan 1\nchan 0\nlocks 1\nrecv 0 2\nsend 0 3\nfunc\nspawn 1 7 0\n"+x.draws+"\n"+x.behind+"\nfunc\ntrap 3")
+		run(t, w, 0)
+		var ahead string
+		check(t, w.Exec(0, func(kind, n int) int {
+			for _, g := range x.calls {
+				w.Exec(g, last)
+			}
+			ahead = show(w)
+			return n - 1
+		}), false)
+		stays(t, "who can't go on", w, ahead)
+	}
+}
+
 // P1: a draw that isn't from 0 to below how many there are is answered by the nearest that is.
 func TestDrawBeyond(t *testing.T) {
 	for text, n := range map[string]int{"chan 1\nrecv 0 2\nsend 0 3\nelse\nsend 0 4\nrecv 0 5\nsend 0 6\nfunc\nselect 0 6 1\nnop": 3, "func\nrand 1 10\nnop": 10} {
